@@ -4,6 +4,7 @@ import (
 	"strings"
 
 	"inarch/api"
+	"inarch/copies"
 )
 
 // value of a node, of a tree that may be.
@@ -12,8 +13,8 @@ func value(t api.Tree, node int) api.Value {
 	return api.Value{
 		Kind: n.Kind,
 		Text: strings.Clone(n.Text),
-		List: each(n.Subs, func(sub int) api.Value { return value(t, sub) }),
-		Keys: each(n.Keys, strings.Clone),
+		List: copies.Each(n.Subs, func(sub int) api.Value { return value(t, sub) }),
+		Keys: copies.Each(n.Keys, strings.Clone),
 	}
 }
 
@@ -34,21 +35,9 @@ func alone(v api.Value) api.Node {
 	return api.Node{
 		Kind:  v.Kind,
 		Text:  strings.Clone(v.Text),
-		Keys:  each(v.Keys, strings.Clone),
-		Spots: each(v.Keys, func(string) api.Span { return nowhere }),
-		Subs:  each(v.List, func(api.Value) int { return 0 }),
+		Keys:  copies.Each(v.Keys, strings.Clone),
+		Spots: copies.Each(v.Keys, func(string) api.Span { return nowhere }),
+		Subs:  copies.Each(v.List, func(api.Value) int { return 0 }),
 		Span:  nowhere,
 	}
-}
-
-// each part, made into another one, in a list of its own; where there is no list, there is none.
-func each[P, T any](parts []P, of func(p P) T) []T {
-	if parts == nil {
-		return nil
-	}
-	l := make([]T, 0, len(parts))
-	for _, p := range parts {
-		l = append(l, of(p))
-	}
-	return l
 }

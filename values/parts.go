@@ -15,16 +15,6 @@ func over[P, T any](parts []P, sum T, add func(sum T, p P) T) T {
 	return sum
 }
 
-// each part, made into another one, in a list of its own.
-func each[P, T any](parts []P, of func(p P) T) []T {
-	if parts == nil {
-		return nil
-	}
-	return over(parts, make([]T, 0, len(parts)), func(l []T, p P) []T {
-		return append(l, of(p))
-	})
-}
-
 func size(v api.Value) int {
 	return over(v.List, 1, func(n int, p api.Value) int {
 		return n + size(p)
@@ -38,14 +28,6 @@ func deep(v api.Value) int {
 	return 1 + over(v.List, 0, func(n int, p api.Value) int {
 		return max(n, deep(p))
 	})
-}
-
-// own is a value in new memory.
-func own(v api.Value) api.Value {
-	v.Text = strings.Clone(v.Text)
-	v.List = each(v.List, own)
-	v.Keys = each(v.Keys, strings.Clone)
-	return v
 }
 
 // parted are the kinds that may have others within.
